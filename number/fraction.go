@@ -125,6 +125,15 @@ func (a Fraction) Power(n int) Fraction {
 	return fraction(a.negative && n%2 == 1, a.numerator.power(n), a.below().power(n))
 }
 
+// Root returns the square root of a, which is not negative, and true if it is rational.
+func (a Fraction) Root() (Fraction, bool) {
+	root := fraction(false, a.numerator.root(), a.below().root())
+	if root.Times(root).Compare(a) != 0 {
+		return Fraction{}, false
+	}
+	return root, true
+}
+
 // Compare returns -1, 0 or 1 if a is less than, equal to, or greater than b.
 func (a Fraction) Compare(b Fraction) int {
 	if a.Sign() != b.Sign() {

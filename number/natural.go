@@ -130,6 +130,22 @@ func (a natural) power(n int) natural {
 	return result
 }
 
+// root returns the greatest whole number whose square is at most a (Newton's method, from a number that is greater).
+func (a natural) root() natural {
+	if len(a) == 0 {
+		return nil
+	}
+	x := natural{1}.shifted((a.bitLength() + 1) / 2)
+	for {
+		quotient, _ := a.divide(x)
+		next := x.plus(quotient).shiftedDown(1)
+		if next.compare(x) >= 0 {
+			return x
+		}
+		x = next
+	}
+}
+
 // shifted returns a times 2^by.
 func (a natural) shifted(by int) natural {
 	limbs, rest := by/64, uint(by%64)

@@ -266,3 +266,28 @@ func TestSpans(t *testing.T) {
 		}
 	}
 }
+
+func TestRoots(t *testing.T) {
+	r := rand.New(rand.NewSource(6))
+	for range 5000 {
+		a := someNatural(r)
+		same(t, "root", a.root(), new(big.Int).Sqrt(bigOf(a)))
+		square := a.times(a)
+		same(t, "root of a square", square.root(), bigOf(a))
+		if len(square) > 0 {
+			same(t, "root below a square", square.minus(natural{1}).root(), new(big.Int).Sub(bigOf(a), big.NewInt(1)))
+		}
+		f, x := someFraction(r)
+		root, isSquare := f.Times(f).Root()
+		if !isSquare {
+			t.Fatalf("Root: the square of %s has none", f)
+		}
+		sameFraction(t, "Root", root, x.Abs(x))
+		if root, isSquare := f.Times(f).Times(Whole(2)).Root(); f.Sign() != 0 && (isSquare || root.Sign() != 0) {
+			t.Fatalf("Root: twice the square of %s has %s", f, root)
+		}
+		if root, isSquare := f.Times(f).Over(Whole(3)).Root(); f.Sign() != 0 && (isSquare || root.Sign() != 0) {
+			t.Fatalf("Root: a third of the square of %s has %s", f, root)
+		}
+	}
+}
