@@ -5,7 +5,7 @@ import (
 
 	"integraph/api"
 	"integraph/exact"
-	"integraph/number"
+	"integraph/limits"
 )
 
 // Value returns the rational value of an expression.
@@ -168,14 +168,13 @@ func root(a api.Rat) (api.Rat, api.Errno) {
 	if sign(a) < 0 {
 		return "", api.ErrRange
 	}
-	num, den, isQuotient := strings.Cut(string(a), "/")
-	if !isQuotient {
-		den = "1"
+	square, err := limits.ReadRat(a)
+	if err != api.OK {
+		return "", err
 	}
-	square, _ := number.Quotient(num, den)
 	result, isSquare := square.Root()
 	if !isSquare {
 		return "", api.ErrNone
 	}
-	return api.Rat(result.String()), api.OK
+	return limits.WriteRat(result)
 }

@@ -5,6 +5,7 @@ import (
 	"strings"
 
 	"integraph/api"
+	"integraph/limits"
 	"integraph/number"
 )
 
@@ -25,7 +26,7 @@ func IsName(s string) bool {
 
 // Check returns the first error of a number, or OK.
 func Check(a api.Rat) api.Errno {
-	_, e := read(a)
+	_, e := limits.ReadRat(a)
 	return e
 }
 
@@ -34,7 +35,7 @@ func Of(num, den int) (api.Rat, api.Errno) {
 	if den == 0 {
 		return "", api.ErrZero
 	}
-	return write(number.Whole(num).Over(number.Whole(den)))
+	return limits.WriteRat(number.Whole(num).Over(number.Whole(den)))
 }
 
 // Parse returns the number that a text such as 3, -6/4 or 0.25 describes.
@@ -51,14 +52,14 @@ func Parse(s string) (api.Rat, api.Errno) {
 	if negative {
 		a = a.Negative()
 	}
-	return write(a)
+	return limits.WriteRat(a)
 }
 
 // parseQuotient returns the digits of the numerator and of the denominator that a text without a sign describes.
 func parseQuotient(s string) (string, string, api.Errno) {
 	num, den, isQuotient := strings.Cut(s, "/")
 	if isQuotient {
-		if !areDigits(num) || !areDigits(den) {
+		if !limits.AreDigits(num) || !limits.AreDigits(den) {
 			return "", "", api.ErrSyntax
 		}
 		if strings.Trim(den, "0") == "" {
@@ -67,7 +68,7 @@ func parseQuotient(s string) (string, string, api.Errno) {
 		return num, den, api.OK
 	}
 	whole, parts, hasPoint := strings.Cut(s, ".")
-	if !areDigits(whole) || hasPoint && !areDigits(parts) {
+	if !limits.AreDigits(whole) || hasPoint && !limits.AreDigits(parts) {
 		return "", "", api.ErrSyntax
 	}
 	return whole + parts, "1" + strings.Repeat("0", len(parts)), api.OK
@@ -96,28 +97,28 @@ func Mul(a, b api.Rat) (api.Rat, api.Errno) { return combine(a, b, number.Fracti
 
 // combine returns the result of an operation.
 func combine(a, b api.Rat, operation func(x, y number.Fraction) number.Fraction) (api.Rat, api.Errno) {
-	x, y, e := convertTwo(a, b, read)
+	x, y, e := limits.Two(a, b, limits.ReadRat)
 	if e != api.OK {
 		return "", e
 	}
-	return write(operation(x, y))
+	return limits.WriteRat(operation(x, y))
 }
 
 // Div returns the quotient.
 func Div(a, b api.Rat) (api.Rat, api.Errno) {
-	x, y, e := convertTwo(a, b, read)
+	x, y, e := limits.Two(a, b, limits.ReadRat)
 	if e != api.OK {
 		return "", e
 	}
 	if y.Sign() == 0 {
 		return "", api.ErrZero
 	}
-	return write(x.Over(y))
+	return limits.WriteRat(x.Over(y))
 }
 
 // Compare returns -1, 0 or 1.
 func Compare(a, b api.Rat) (int, api.Errno) {
-	x, y, e := convertTwo(a, b, read)
+	x, y, e := limits.Two(a, b, limits.ReadRat)
 	if e != api.OK {
 		return 0, e
 	}
@@ -126,23 +127,23 @@ func Compare(a, b api.Rat) (int, api.Errno) {
 
 // Floor returns the greatest integer that is at most a.
 func Floor(a api.Rat) (api.Rat, api.Errno) {
-	x, e := read(a)
+	x, e := limits.ReadRat(a)
 	if e != api.OK {
 		return "", e
 	}
-	return write(x.Floor())
+	return limits.WriteRat(x.Floor())
 }
 
 // Nearest returns the nearest number of a grid.
 func Nearest(a api.Rat, bits int) (api.Rat, api.Errno) {
-	x, e := read(a)
+	x, e := limits.ReadRat(a)
 	if e != api.OK {
 		return "", e
 	}
 	if !isGrid(bits) {
 		return "", api.ErrRange
 	}
-	return write(x.Nearest(bits))
+	return limits.WriteRat(x.Nearest(bits))
 }
 
 // isGrid reports whether there is a grid of these bits.

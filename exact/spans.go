@@ -2,50 +2,26 @@ package exact
 
 import (
 	"integraph/api"
+	"integraph/limits"
 	"integraph/number"
 )
 
-// readSpan returns the value of a span, or its error.
-func readSpan(s api.Span) (number.Span, api.Errno) {
-	low, high, e := convertTwo(s.Low, s.High, read)
-	if e != api.OK {
-		return number.Span{}, e
-	}
-	if low.Compare(high) > 0 {
-		return number.Span{}, api.ErrOrder
-	}
-	return number.Span{Low: low, High: high}, api.OK
-}
-
-// writeSpan returns the texts of a span, or ErrLarge.
-func writeSpan(s number.Span) (api.Span, api.Errno) {
-	low, e := write(s.Low)
-	if e != api.OK {
-		return api.Span{}, e
-	}
-	high, e := write(s.High)
-	if e != api.OK {
-		return api.Span{}, e
-	}
-	return api.Span{Low: low, High: high}, api.OK
-}
-
 // CheckSpan returns the first error of a span, or OK.
 func CheckSpan(s api.Span) api.Errno {
-	_, e := readSpan(s)
+	_, e := limits.ReadSpan(s)
 	return e
 }
 
 // Outward returns the least span with ends on a grid that contains a span.
 func Outward(s api.Span, bits int) (api.Span, api.Errno) {
-	x, e := readSpan(s)
+	x, e := limits.ReadSpan(s)
 	if e != api.OK {
 		return api.Span{}, e
 	}
 	if !isGrid(bits) {
 		return api.Span{}, api.ErrRange
 	}
-	return writeSpan(x.Outward(bits))
+	return limits.WriteSpan(x.Outward(bits))
 }
 
 // AddSpans returns the span of the sums.
@@ -59,23 +35,23 @@ func MulSpans(a, b api.Span) (api.Span, api.Errno) { return combineSpans(a, b, n
 
 // combineSpans returns the result of an operation.
 func combineSpans(a, b api.Span, operation func(x, y number.Span) number.Span) (api.Span, api.Errno) {
-	x, y, e := convertTwo(a, b, readSpan)
+	x, y, e := limits.Two(a, b, limits.ReadSpan)
 	if e != api.OK {
 		return api.Span{}, e
 	}
-	return writeSpan(operation(x, y))
+	return limits.WriteSpan(operation(x, y))
 }
 
 // PowerSpan returns the span of the powers.
 func PowerSpan(s api.Span, n int) (api.Span, api.Errno) {
-	x, e := readSpan(s)
+	x, e := limits.ReadSpan(s)
 	if e != api.OK {
 		return api.Span{}, e
 	}
 	if n < 0 || n > api.MaxPower {
 		return api.Span{}, api.ErrRange
 	}
-	return writeSpan(x.Power(n))
+	return limits.WriteSpan(x.Power(n))
 }
 
 // Hull returns the least span that contains all spans of a list.
@@ -86,7 +62,7 @@ func Hull(l []api.Span) (api.Span, api.Errno) {
 	if len(l) > api.MaxList {
 		return api.Span{}, api.ErrMany
 	}
-	spans, e := convertAll(l, readSpan)
+	spans, e := limits.All(l, limits.ReadSpan)
 	if e != api.OK {
 		return api.Span{}, e
 	}
@@ -94,12 +70,12 @@ func Hull(l []api.Span) (api.Span, api.Errno) {
 	for _, s := range spans[1:] {
 		hull = hull.Hull(s)
 	}
-	return writeSpan(hull)
+	return limits.WriteSpan(hull)
 }
 
 // Within reports whether a span is a part of another one.
 func Within(a, b api.Span) (bool, api.Errno) {
-	x, y, e := convertTwo(a, b, readSpan)
+	x, y, e := limits.Two(a, b, limits.ReadSpan)
 	if e != api.OK {
 		return false, e
 	}

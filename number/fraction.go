@@ -134,6 +134,12 @@ func (a Fraction) Root() (Fraction, bool) {
 	return root, true
 }
 
+// RootDown returns the greatest multiple of 1 / 2^bits that is at most the square root of a, which is not negative.
+func (a Fraction) RootDown(bits int) Fraction {
+	square := a.Over(unit(2 * bits)).Floor()
+	return fraction(false, square.numerator.root(), nil).Times(unit(bits))
+}
+
 // Compare returns -1, 0 or 1 if a is less than, equal to, or greater than b.
 func (a Fraction) Compare(b Fraction) int {
 	if a.Sign() != b.Sign() {

@@ -291,3 +291,22 @@ func TestRoots(t *testing.T) {
 		}
 	}
 }
+
+func TestRootDown(t *testing.T) {
+	r := rand.New(rand.NewSource(7))
+	for range 3000 {
+		f, x := someFraction(r)
+		x.Abs(x)
+		if f.Sign() < 0 {
+			f = f.Negative()
+		}
+		bits := r.Intn(100)
+		// the root of the greatest whole number that is at most x 4^bits
+		scaled := new(big.Int).Lsh(x.Num(), uint(2*bits))
+		root := new(big.Int).Sqrt(scaled.Quo(scaled, x.Denom()))
+		sameFraction(t, "RootDown", f.RootDown(bits), new(big.Rat).SetFrac(root, new(big.Int).Lsh(big.NewInt(1), uint(bits))))
+	}
+	sameFraction(t, "RootDown of 2", Whole(2).RootDown(2), big.NewRat(5, 4))
+	sameFraction(t, "RootDown of 9/4", Whole(9).Over(Whole(4)).RootDown(1), big.NewRat(3, 2))
+	sameFraction(t, "RootDown of 0", Whole(0).RootDown(9), new(big.Rat))
+}
