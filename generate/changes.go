@@ -25,7 +25,7 @@ func Extend(s api.System, name string, p api.Poly) (api.System, api.Errno) {
 	if n == api.MaxVars {
 		return api.System{}, api.ErrMany
 	}
-	rate, err := limits.WritePoly(slices.Values(x.derivative(q)), n+1)
+	rate, err := limits.WritePoly(slices.Values(q.Along(x.rates)), n+1)
 	if err != api.OK {
 		return api.System{}, err
 	}

@@ -35,7 +35,7 @@ func kinds() map[string]kind {
 	one, half := number.Whole(1), unit(1)
 	power := func(factor number.Fraction, function string, n int) kind {
 		return kind{rate: func(number func(function string) int) polynomial.Poly {
-			return product(factor, raised(number(function), n))
+			return polynomial.Single(factor, polynomial.Raised(number(function), n))
 		}}
 	}
 	return map[string]kind{
@@ -43,7 +43,7 @@ func kinds() map[string]kind {
 		"sin":      power(one, "cos", 1),
 		"cos":      power(one.Negative(), "sin", 1),
 		"tan": {rate: func(number func(function string) int) polynomial.Poly {
-			return product(one, polynomial.Powers{}).Plus(product(one, raised(number("tan"), 2)))
+			return polynomial.Single(one, polynomial.Powers{}).Plus(polynomial.Single(one, polynomial.Raised(number("tan"), 2)))
 		}},
 		"exp":  power(one, "exp", 1),
 		"log":  power(one, reciprocal, 1),

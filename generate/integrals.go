@@ -44,7 +44,7 @@ func Integrals(s api.System, degree int) ([]api.Poly, api.Errno) {
 func (x system) conditions(list []polynomial.Powers) iter.Seq[[]number.Fraction] {
 	factors := map[polynomial.Powers]map[int]number.Fraction{}
 	for i, powers := range list {
-		for _, t := range x.derivative(product(number.Whole(1), powers)) {
+		for _, t := range polynomial.Single(number.Whole(1), powers).Along(x.rates) {
 			if factors[t.Powers] == nil {
 				factors[t.Powers] = map[int]number.Fraction{}
 			}

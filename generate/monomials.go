@@ -3,21 +3,8 @@ package generate
 import (
 	"iter"
 
-	"integraph/number"
 	"integraph/polynomial"
 )
-
-// product returns a number times a product of powers.
-func product(factor number.Fraction, powers polynomial.Powers) polynomial.Poly {
-	return polynomial.Poly{{Powers: powers, Factor: factor}}
-}
-
-// raised returns the powers of a variable to the power n; 0 is t.
-func raised(v, n int) polynomial.Powers {
-	var powers polynomial.Powers
-	powers[v] = uint8(n)
-	return powers
-}
 
 // monomials visits all products of powers of the variables from the first to the last number (0 is t) whose sum of
 // powers is from least to most, in the order of terms.

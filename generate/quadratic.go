@@ -93,7 +93,7 @@ func Quadratic(s api.System) ([]api.Poly, api.Errno) {
 			}
 			if isQuadratic(some, list, n) {
 				return limits.All(list, func(powers polynomial.Powers) (api.Poly, api.Errno) {
-					return limits.WritePoly(slices.Values(product(number.Whole(1), powers)), n)
+					return limits.WritePoly(slices.Values(polynomial.Single(number.Whole(1), powers)), n)
 				})
 			}
 		}
@@ -127,7 +127,7 @@ func choices(n, size int) iter.Seq[[]int] {
 func (x system) parts(list []polynomial.Powers) []polynomial.Poly {
 	parts := slices.Clone(x.rates)
 	for _, powers := range list {
-		parts = append(parts, x.derivative(product(number.Whole(1), powers)))
+		parts = append(parts, polynomial.Single(number.Whole(1), powers).Along(x.rates))
 	}
 	return parts
 }
@@ -137,7 +137,7 @@ func (x system) parts(list []polynomial.Powers) []polynomial.Poly {
 func isQuadratic(parts []polynomial.Poly, monomials []polynomial.Powers, vars int) bool {
 	factors := append([]polynomial.Powers{{}}, monomials...) // the product with 1 is that of less than two
 	for v := range vars + 1 {
-		factors = append(factors, raised(v, 1))
+		factors = append(factors, polynomial.Raised(v, 1))
 	}
 	products := map[polynomial.Powers]bool{}
 	for i, a := range factors {

@@ -15,7 +15,7 @@ func Lie(s api.System, p api.Poly) (api.Poly, api.Errno) {
 	if err != api.OK {
 		return nil, err
 	}
-	return limits.WritePoly(slices.Values(x.derivative(q)), len(x.rates))
+	return limits.WritePoly(slices.Values(q.Along(x.rates)), len(x.rates))
 }
 
 // IsIntegral reports whether a polynomial is a first integral.
@@ -24,7 +24,7 @@ func IsIntegral(s api.System, p api.Poly) (bool, api.Errno) {
 	if err != api.OK {
 		return false, err
 	}
-	return len(x.derivative(q)) == 0, api.OK
+	return len(q.Along(x.rates)) == 0, api.OK
 }
 
 // readBoth returns the values of a system and of a polynomial in its variables, or the first error.
@@ -35,20 +35,6 @@ func readBoth(s api.System, p api.Poly) (system, polynomial.Poly, api.Errno) {
 	}
 	q, err := limits.ReadPoly(p, len(x.rates))
 	return x, q, err
-}
-
-// derivative returns the derivative of a polynomial along the system.
-func (x system) derivative(p polynomial.Poly) polynomial.Poly {
-	sum := polynomial.Sum{}
-	for _, t := range p.Derivative(0) {
-		sum.Add(t)
-	}
-	for v, rate := range x.rates {
-		for t := range polynomial.Products(p.Derivative(v+1), rate) {
-			sum.Add(t)
-		}
-	}
-	return sum.Poly()
 }
 
 // Series returns the Taylor coefficients of the variables of a system.
@@ -66,7 +52,7 @@ func Series(s api.System, order int) ([][]api.Rat, api.Errno) {
 	// are small.
 	for k := range order + 1 {
 		for v := range series {
-			c, err := limits.WriteRat(e.ofProduct(raised(v+1, 1), k))
+			c, err := limits.WriteRat(e.ofProduct(polynomial.Raised(v+1, 1), k))
 			if err != api.OK {
 				return nil, err
 			}
@@ -142,14 +128,14 @@ func (e expansion) next(powers polynomial.Powers, k int) number.Fraction {
 		return number.Whole(1)
 	case v < 0:
 		return number.Whole(0)
-	case powers == raised(v, 1):
+	case powers == polynomial.Raised(v, 1):
 		return e.ofVariable(v, k)
 	}
 	rest := powers
 	rest[v]--
 	var sum number.Fraction
 	for i := range k + 1 {
-		sum = sum.Plus(e.ofProduct(raised(v, 1), i).Times(e.ofProduct(rest, k-i)))
+		sum = sum.Plus(e.ofProduct(polynomial.Raised(v, 1), i).Times(e.ofProduct(rest, k-i)))
 	}
 	return sum
 }

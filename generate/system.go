@@ -206,7 +206,7 @@ func (m *maker) rate(x system, a auxiliary) (polynomial.Poly, api.Errno) {
 	if err != api.OK {
 		return nil, err
 	}
-	inner := x.derivative(u)
+	inner := u.Along(x.rates)
 	if len(inner) == 0 { // of a number there need not be the functions that stand in the rate
 		return nil, api.OK
 	}

@@ -10,7 +10,10 @@ import (
 	"integraph/number"
 )
 
-// Powers are the powers of t and of the variables in a term, t first; their sum is at most 255.
+// MostDegree is the greatest sum of powers.
+const MostDegree = 255
+
+// Powers are the powers of t and of the variables in a term, t first; their sum is at most MostDegree.
 type Powers [api.MaxVars + 1]uint8
 
 // Term is a term of a polynomial.
@@ -58,6 +61,18 @@ func (a Powers) Compare(b Powers) int {
 		return sums
 	}
 	return first
+}
+
+// Raised returns the powers of a variable to the power n; the variable 0 is t.
+func Raised(v, n int) Powers {
+	var powers Powers
+	powers[v] = uint8(n)
+	return powers
+}
+
+// Single returns a factor, which is not 0, times a product of powers.
+func Single(factor number.Fraction, powers Powers) Poly {
+	return Poly{{Powers: powers, Factor: factor}}
 }
 
 // Add adds a term.
@@ -113,6 +128,20 @@ func (p Poly) Derivative(v int) Poly {
 		if n := t.Powers[v]; n > 0 {
 			t.Powers[v]--
 			sum.Add(Term{t.Powers, t.Factor.Times(number.Whole(int(n)))})
+		}
+	}
+	return sum.Poly()
+}
+
+// Along returns the derivative with respect to t, where the variables have some rates; further ones have none.
+func (p Poly) Along(rates []Poly) Poly {
+	sum := Sum{}
+	for _, t := range p.Derivative(0) {
+		sum.Add(t)
+	}
+	for v, rate := range rates {
+		for t := range Products(p.Derivative(v+1), rate) {
+			sum.Add(t)
 		}
 	}
 	return sum.Poly()
