@@ -2,6 +2,8 @@
 // numbers on the way to a result have none.
 package number
 
+import "slices"
+
 // Fraction is a rational number in lowest terms. Its zero value is 0, and it is immutable.
 type Fraction struct {
 	negative    bool
@@ -123,6 +125,15 @@ func (a Fraction) Over(b Fraction) Fraction {
 // Power returns a to the power n, which is not negative.
 func (a Fraction) Power(n int) Fraction {
 	return fraction(a.negative && n%2 == 1, a.numerator.power(n), a.below().power(n))
+}
+
+// Curve returns the value at a of the polynomial of one variable with some coefficients, the constant one first.
+func Curve(coefficients []Fraction, a Fraction) Fraction {
+	var value Fraction
+	for _, c := range slices.Backward(coefficients) {
+		value = value.Times(a).Plus(c)
+	}
+	return value
 }
 
 // Root returns the square root of a, which is not negative, and true if it is rational.

@@ -219,6 +219,19 @@ func TestFractions(t *testing.T) {
 	}
 }
 
+func TestCurve(t *testing.T) {
+	third, minus := Whole(1).Over(Whole(3)), Whole(-2)
+	for _, row := range []struct {
+		coefficients []Fraction
+		at           Fraction
+		want         string
+	}{{nil, third, "0"}, {[]Fraction{third}, minus, "1/3"}, {[]Fraction{third, minus}, minus, "13/3"}, {[]Fraction{Whole(5), {}, third, minus}, third, "134/27"}} {
+		if got := Curve(row.coefficients, row.at).String(); got != row.want {
+			t.Errorf("Curve of %v at %v: got %s, want %s", row.coefficients, row.at, got, row.want)
+		}
+	}
+}
+
 func TestWhole(t *testing.T) {
 	for _, n := range []int{0, 1, -1, 7, 1<<63 - 1, -1 << 63} {
 		sameFraction(t, "Whole", Whole(n), new(big.Rat).SetInt64(int64(n)))
