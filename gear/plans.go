@@ -25,7 +25,7 @@ func Equip(p api.Plan, stock []api.Wheel, pairs int) ([][]api.Pair, api.Errno) {
 	left := shelfOf(stock)
 	trains := make([][]api.Pair, len(ratios))
 	for i, ratio := range ratios {
-		trains[i] = best(left.stock(), size(ratio), pairs)
+		trains[i] = best(left.stock(), ratio.Size(), pairs)
 		left.take(trains[i])
 	}
 	return trains, api.OK
@@ -76,7 +76,7 @@ func Factors(p api.Plan, trains [][]api.Pair) ([]api.Rat, api.Errno) {
 		return nil, e
 	}
 	for i, ratio := range ratios {
-		made[i] = made[i].Over(size(ratio))
+		made[i] = made[i].Over(ratio.Size())
 	}
 	return limits.All(made, limits.WriteRat)
 }

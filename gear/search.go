@@ -53,27 +53,7 @@ func nearest() order[found] {
 }
 
 // distance returns the absolute value of a - b.
-func distance(a, b number.Fraction) number.Fraction { return size(a.Minus(b)) }
-
-// size returns the absolute value of a.
-func size(a number.Fraction) number.Fraction {
-	if a.Sign() < 0 {
-		return a.Negative()
-	}
-	return a
-}
-
-// readRatio returns the value of a ratio that is searched, or its error.
-func readRatio(a api.Rat) (number.Fraction, api.Errno) {
-	ratio, e := limits.ReadRat(a)
-	if e != api.OK {
-		return number.Fraction{}, e
-	}
-	if ratio.Sign() <= 0 {
-		return number.Fraction{}, api.ErrRange
-	}
-	return ratio, api.OK
-}
+func distance(a, b number.Fraction) number.Fraction { return a.Minus(b).Size() }
 
 // checkPairs returns the error of a number of pairs for a stock.
 func checkPairs(stock []api.Wheel, pairs int) api.Errno {
@@ -193,7 +173,7 @@ func readSearch(stock []api.Wheel, ratio api.Rat, pairs int) (number.Fraction, a
 	if e := CheckStock(stock); e != api.OK {
 		return number.Fraction{}, e
 	}
-	x, e := readRatio(ratio)
+	x, e := limits.ReadPositive(ratio)
 	if e != api.OK {
 		return number.Fraction{}, e
 	}
@@ -211,7 +191,7 @@ func Least(stock []api.Wheel, ratio, within api.Rat, pairs int) ([]api.Pair, api
 	if e := CheckStock(stock); e != api.OK {
 		return nil, e
 	}
-	x, e := readRatio(ratio)
+	x, e := limits.ReadPositive(ratio)
 	if e != api.OK {
 		return nil, e
 	}

@@ -56,6 +56,18 @@ func ReadRat(a api.Rat) (number.Fraction, api.Errno) {
 	return value, api.OK
 }
 
+// ReadPositive returns the value of a number above 0, or its error.
+func ReadPositive(a api.Rat) (number.Fraction, api.Errno) {
+	x, e := ReadRat(a)
+	if e != api.OK {
+		return number.Fraction{}, e
+	}
+	if x.Sign() <= 0 {
+		return number.Fraction{}, api.ErrRange
+	}
+	return x, api.OK
+}
+
 // isWhole reports whether a text has decimal digits without zeros in front.
 func isWhole(s string) bool {
 	return AreDigits(s) && (s == "0" || s[0] != '0')

@@ -45,6 +45,19 @@ func TestRats(t *testing.T) {
 	}
 }
 
+func TestPositive(t *testing.T) {
+	for _, row := range []struct {
+		a    api.Rat
+		want api.Errno
+	}{{"3/2", api.OK}, {api.Rat("1/" + nines), api.OK}, {"0", api.ErrRange}, {"-3/2", api.ErrRange}, {"-2/4", api.ErrForm}, {"", api.ErrForm}, {api.Rat("-" + nines + "9"), api.ErrLarge}} {
+		x, e := ReadPositive(row.a)
+		expectError(t, "ReadPositive of "+string(row.a), e, row.want)
+		if want := map[bool]string{true: string(row.a), false: "0"}[e == api.OK]; x.String() != want {
+			t.Errorf("ReadPositive of %s is %s", row.a, x)
+		}
+	}
+}
+
 func TestSpans(t *testing.T) {
 	for _, row := range []struct {
 		s    api.Span

@@ -72,6 +72,9 @@ func (a Fraction) Negative() Fraction {
 	return fraction(!a.negative, a.numerator, a.denominator)
 }
 
+// Size returns the absolute value of a.
+func (a Fraction) Size() Fraction { return fraction(false, a.numerator, a.denominator) }
+
 // Plus returns a + b.
 func (a Fraction) Plus(b Fraction) Fraction {
 	if a.denominator == nil && b.denominator == nil {

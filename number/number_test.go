@@ -196,6 +196,7 @@ func TestFractions(t *testing.T) {
 		b, y := someFraction(r)
 		sameFraction(t, "Plus", a.Plus(b), new(big.Rat).Add(x, y))
 		sameFraction(t, "Minus", a.Minus(b), new(big.Rat).Sub(x, y))
+		sameFraction(t, "Size", a.Size(), new(big.Rat).Abs(x))
 		sameFraction(t, "Minus itself", a.Minus(a), new(big.Rat))
 		sameFraction(t, "Times", a.Times(b), new(big.Rat).Mul(x, y))
 		if y.Sign() != 0 {
