@@ -4,6 +4,7 @@
 package limits
 
 import (
+	"strconv"
 	"strings"
 
 	"integraph/api"
@@ -66,6 +67,15 @@ func ReadPositive(a api.Rat) (number.Fraction, api.Errno) {
 		return number.Fraction{}, api.ErrRange
 	}
 	return x, api.OK
+}
+
+// ReadInteger returns the value of an integer in a line of words, which is at most MaxNumber, or ErrSyntax.
+func ReadInteger(word string) (int, api.Errno) {
+	n, err := strconv.Atoi(word)
+	if !isWhole(word) || err != nil || n > api.MaxNumber {
+		return 0, api.ErrSyntax
+	}
+	return n, api.OK
 }
 
 // isWhole reports whether a text has decimal digits without zeros in front.

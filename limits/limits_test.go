@@ -58,6 +58,23 @@ func TestPositive(t *testing.T) {
 	}
 }
 
+func TestIntegers(t *testing.T) {
+	for _, word := range []string{"", "-1", "+1", "-0", "01", "00", "1/2", "1 ", " 1", "x", "0x1", "1e2", "1_0", "1000000000", nines, "99999999999999999999", "\u0661"} {
+		n, e := ReadInteger(word)
+		expectError(t, "ReadInteger of "+word, e, api.ErrSyntax)
+		if n != 0 {
+			t.Errorf("ReadInteger of %s is %d", word, n)
+		}
+	}
+	for word, want := range map[string]int{"0": 0, "7": 7, "10": 10, "999999999": 999999999} {
+		n, e := ReadInteger(word)
+		expectError(t, "ReadInteger of "+word, e, api.OK)
+		if n != want {
+			t.Errorf("ReadInteger of %s is %d", word, n)
+		}
+	}
+}
+
 func TestSpans(t *testing.T) {
 	for _, row := range []struct {
 		s    api.Span
