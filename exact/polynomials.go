@@ -91,7 +91,7 @@ func Compose(p api.Poly, vars int, with []api.Poly, newVars int) (api.Poly, api.
 	if len(with) != vars+1 {
 		return nil, api.ErrShape
 	}
-	list, e := limits.All(with, func(p api.Poly) (polynomial.Poly, api.Errno) { return limits.ReadPoly(p, newVars) })
+	list, e := limits.ReadPolys(with, newVars)
 	if e != api.OK {
 		return nil, e
 	}

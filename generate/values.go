@@ -62,7 +62,7 @@ func least(bits int, enclosed func(precision int) number.Span) number.Span {
 	step := unit(bits)
 	for precision := bits + guardBits; ; precision *= 2 {
 		s := enclosed(precision).Outward(bits)
-		if s.High.Minus(s.Low).Compare(step) == 0 {
+		if s.Width().Compare(step) == 0 {
 			return s
 		}
 	}

@@ -110,6 +110,15 @@ func TestPolys(t *testing.T) {
 		_, e := ReadPoly(row.p, row.vars)
 		expectError(t, "ReadPoly: "+row.what, e, row.want)
 	}
+	list, e := ReadPolys([]api.Poly{nil, p}, 1)
+	if e != api.OK || len(list) != 2 || len(list[0]) != 0 || !slices.EqualFunc(list[1], q, func(a, b polynomial.Term) bool { return a.Powers == b.Powers && a.Factor.Compare(b.Factor) == 0 }) {
+		t.Errorf("ReadPolys: %v with the error %d", list, e)
+	}
+	list, e = ReadPolys([]api.Poly{p, make(api.Poly, 65), {{}}}, 1)
+	expectError(t, "ReadPolys", e, api.ErrMany)
+	if list != nil {
+		t.Errorf("polynomials beside an error: %v", list)
+	}
 	got, e := WritePoly(slices.Values(q), 1)
 	expectError(t, "WritePoly", e, api.OK)
 	if len(got) != 2 || got[1].Factor != "-1/3" || !slices.Equal(got[0].Powers, []int{1, 11}) {

@@ -64,6 +64,11 @@ func ReadPoly(p api.Poly, vars int) (polynomial.Poly, api.Errno) {
 	})
 }
 
+// ReadPolys returns the values of polynomials in some variables, or the error of the first one with one.
+func ReadPolys(list []api.Poly, vars int) ([]polynomial.Poly, api.Errno) {
+	return All(list, func(p api.Poly) (polynomial.Poly, api.Errno) { return ReadPoly(p, vars) })
+}
+
 // WritePoly returns the polynomial in some variables with these terms, which are in order, or its error.
 // It stops at the first terms that show an error, so that the others need not be known.
 func WritePoly(terms iter.Seq[polynomial.Term], vars int) (api.Poly, api.Errno) {

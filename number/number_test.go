@@ -267,12 +267,22 @@ func TestSpans(t *testing.T) {
 					if whole(a, b).Within(whole(c, d)) != (c <= a && b <= d) {
 						t.Errorf("Within: %d to %d, %d to %d", a, b, c, d)
 					}
+					common, meet := whole(a, b).Common(whole(c, d))
+					if meet != (max(a, c) <= min(b, d)) {
+						t.Errorf("Common: %d to %d, %d to %d", a, b, c, d)
+					}
+					if meet {
+						equal("Common", common, whole(max(a, c), min(b, d)))
+					} else {
+						equal("nothing in Common", common, Span{})
+					}
 				}
 			}
 			squares := whole(min(a*a, b*b), max(a*a, b*b))
 			if a < 0 && b > 0 {
 				squares.Low = Fraction{}
 			}
+			equal("Width and Largest", Span{whole(a, b).Width(), whole(a, b).Largest()}, whole(b-a, max(-a, b)))
 			equal("the power 0", whole(a, b).Power(0), whole(1, 1))
 			equal("the power 2", whole(a, b).Power(2), squares)
 			equal("the power 3", whole(a, b).Power(3), whole(a*a*a, b*b*b))

@@ -22,7 +22,7 @@ func readSystem(s api.System) (system, api.Errno) {
 	if e := generate.CheckSystem(s); e != api.OK {
 		return system{}, e
 	}
-	rates, e := readPolys(s.Rates, len(s.Names))
+	rates, e := limits.ReadPolys(s.Rates, len(s.Names))
 	if e != api.OK {
 		return system{}, e
 	}
@@ -36,11 +36,6 @@ func readSystem(s api.System) (system, api.Errno) {
 		x.isExact = x.isExact && span.Low.Compare(span.High) == 0
 	}
 	return x, api.OK
-}
-
-// readPolys returns the values of polynomials in some variables, or the error of the first one with one.
-func readPolys(list []api.Poly, vars int) ([]polynomial.Poly, api.Errno) {
-	return limits.All(list, func(p api.Poly) (polynomial.Poly, api.Errno) { return limits.ReadPoly(p, vars) })
 }
 
 // begin returns the point at which the system begins: 0 for t, and the starts.
@@ -78,7 +73,7 @@ func Verify(p api.Plan, s api.System, wanted []int, proof []api.Poly) api.Errno 
 	if len(proof) != len(x.integrators) {
 		return api.ErrShape
 	}
-	polys, e := readPolys(proof, len(y.rates))
+	polys, e := limits.ReadPolys(proof, len(y.rates))
 	if e != api.OK {
 		return e
 	}

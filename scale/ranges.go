@@ -60,16 +60,7 @@ func Largest(s api.Span) (api.Rat, api.Errno) {
 	if e != api.OK {
 		return "", e
 	}
-	return limits.WriteRat(largest(x))
-}
-
-// largest returns the greatest absolute value in a span.
-func largest(s number.Span) number.Fraction {
-	low, high := s.Low.Size(), s.High.Size()
-	if low.Compare(high) > 0 {
-		return low
-	}
-	return high
+	return limits.WriteRat(x.Largest())
 }
 
 // bounds has the limits of the exponents of a plan.
@@ -117,7 +108,7 @@ func readBounds(p api.Plan, ranges []api.Span, b api.Bench) (bounds, api.Errno) 
 	var x bounds
 	twos := newPowers()
 	for _, span := range spans {
-		x.shafts = append(x.shafts, limit(twos.of(b.Shaft), largest(span)))
+		x.shafts = append(x.shafts, limit(twos.of(b.Shaft), span.Largest()))
 	}
 	known := kinds()
 	for i, u := range p.Units {
@@ -130,7 +121,7 @@ func readBounds(p api.Plan, ranges []api.Span, b api.Bench) (bounds, api.Errno) 
 			if y.hasDisc && j == 0 {
 				turns = twos.of(b.Disc)
 			}
-			y.most = append(y.most, limit(turns, largest(spans[f.Shaft]).Times(ratios[i][j].Size())))
+			y.most = append(y.most, limit(turns, spans[f.Shaft].Largest().Times(ratios[i][j].Size())))
 		}
 		x.units = append(x.units, y)
 	}
@@ -177,7 +168,7 @@ func Slack(p api.Plan, ranges []api.Span, b api.Bench, s api.Setup) ([]api.Rat, 
 	twos := newPowers()
 	slack := make([]number.Fraction, p.Shafts)
 	for i, span := range spans {
-		if size := largest(span); size.Sign() != 0 {
+		if size := span.Largest(); size.Sign() != 0 {
 			slack[i] = twos.of(b.Shaft).Over(twos.of(s.Shafts[i]).Times(size))
 		}
 	}
